@@ -4,6 +4,7 @@ import (
 	"slices"
 
 	"astragal/api"
+	"astragal/whole"
 )
 
 // Compare compares two chances.
@@ -21,7 +22,7 @@ func Both(a, b api.Chance) (api.Chance, api.Errno) {
 	}
 	// Shortened ahead of the product, whose Den then is the final one.
 	x, y := fraction(a.Num, b.Den), fraction(b.Num, a.Den)
-	den, e := product(x.Den, y.Den)
+	den, e := whole.Product(x.Den, y.Den, api.ErrOver)
 	if e != api.OK {
 		return api.Chance{}, e
 	}
@@ -41,14 +42,14 @@ func Either(a, b api.Chance) (api.Chance, api.Errno) {
 	if e := checkChances(a, b); e != api.OK {
 		return api.Chance{}, e
 	}
-	common := divisor(a.Den, b.Den)
+	common := whole.Divisor(a.Den, b.Den)
 	num := wideProduct(a.Num, b.Den/common).plus(wideProduct(b.Num, a.Den/common))
 	if num.compare(wideProduct(a.Den, b.Den/common)) > 0 {
 		return api.Chance{}, api.ErrRange
 	}
 	// Both chances are in lowest terms: what divides num and the common Den divides common, too.
-	by := divisor(common, num.modulo(common))
-	den, e := product(a.Den/common, b.Den/by)
+	by := whole.Divisor(common, num.modulo(common))
+	den, e := whole.Product(a.Den/common, b.Den/by, api.ErrOver)
 	if e != api.OK {
 		return api.Chance{}, e
 	}
@@ -58,7 +59,7 @@ func Either(a, b api.Chance) (api.Chance, api.Errno) {
 // checkChances returns ErrArg unless all chances are valid.
 func checkChances(chances ...api.Chance) api.Errno {
 	wrong := func(c api.Chance) bool {
-		return outside(1, api.MaxNumber)(c.Den) || outside(0, c.Den)(c.Num) || divisor(c.Num, c.Den) > 1
+		return whole.Outside(1, api.MaxNumber)(c.Den) || whole.Outside(0, c.Den)(c.Num) || whole.Divisor(c.Num, c.Den) > 1
 	}
 	if slices.ContainsFunc(chances, wrong) {
 		return api.ErrArg
@@ -68,6 +69,6 @@ func checkChances(chances ...api.Chance) api.Errno {
 
 // fraction returns num / den in lowest terms.
 func fraction(num, den int) api.Chance {
-	by := divisor(num, den)
+	by := whole.Divisor(num, den)
 	return api.Chance{Num: num / by, Den: den / by}
 }

@@ -4,17 +4,18 @@ import (
 	"slices"
 
 	"astragal/api"
+	"astragal/whole"
 )
 
 // Fair returns a value below a number by throws of something with so many sides, and how many throws were used.
 func Fair(sides, below int, throws []int) (value, used int, e api.Errno) {
-	if outside(2, api.MaxSides)(sides) || outside(1, api.MaxSides)(below) {
+	if whole.Outside(2, api.MaxSides)(sides) || whole.Outside(1, api.MaxSides)(below) {
 		return 0, 0, api.ErrRange
 	}
 	if len(throws) > api.MaxThrows {
 		return 0, 0, api.ErrLong
 	}
-	if slices.ContainsFunc(throws, outside(0, sides-1)) {
+	if slices.ContainsFunc(throws, whole.Outside(0, sides-1)) {
 		return 0, 0, api.ErrArg
 	}
 	return decide(sides, below, throws)

@@ -4,6 +4,7 @@ import (
 	"slices"
 
 	"astragal/api"
+	"astragal/whole"
 )
 
 // Join returns the weights of pairs of outcomes.
@@ -42,7 +43,7 @@ func checkPair(a, b []int, outcomes int) api.Errno {
 	if outcomes > api.MaxOutcomes {
 		return api.ErrLong
 	}
-	_, e := product(total(a), total(b))
+	_, e := whole.Product(total(a), total(b), api.ErrOver)
 	return e
 }
 
@@ -51,7 +52,7 @@ func Repeat(w []int, times int) ([]int, api.Errno) {
 	if e := check(w); e != api.OK {
 		return nil, e
 	}
-	if outside(0, api.MaxTimes)(times) {
+	if whole.Outside(0, api.MaxTimes)(times) {
 		return nil, api.ErrRange
 	}
 	// The length goes ahead of the sum: a sum that is too great may come up earlier below.
@@ -73,13 +74,13 @@ func Mix(cases []int, lists [][]int) ([]int, api.Errno) {
 	if e := checkMix(cases, lists); e != api.OK {
 		return nil, e
 	}
-	cases = lowest(cases)
+	cases = whole.Lowest(cases)
 	chosen := canBeChosen(cases, lists)
 	common, e := commonSum(chosen)
 	if e != api.OK {
 		return nil, e
 	}
-	if _, e := product(total(cases), common); e != api.OK {
+	if _, e := whole.Product(total(cases), common, api.ErrOver); e != api.OK {
 		return nil, e
 	}
 	mixed := make([]int, len(lists[0]))
@@ -89,7 +90,7 @@ func Mix(cases []int, lists [][]int) ([]int, api.Errno) {
 			mixed[k] += factor * x
 		}
 	}
-	return lowest(mixed), api.OK
+	return whole.Lowest(mixed), api.OK
 }
 
 // checkMix returns the error of cases and of their lists, except for too great sums.
@@ -114,7 +115,7 @@ func canBeChosen(cases []int, lists [][]int) map[int][]int {
 	chosen := map[int][]int{}
 	for c, x := range cases {
 		if x > 0 {
-			chosen[c] = lowest(lists[c])
+			chosen[c] = whole.Lowest(lists[c])
 		}
 	}
 	return chosen
@@ -126,7 +127,7 @@ func commonSum(lists map[int][]int) (int, api.Errno) {
 	for _, l := range lists {
 		var e api.Errno
 		// In any order: the number never becomes less, so it is too great in the end if it is once.
-		if common, e = multiple(common, total(l)); e != api.OK {
+		if common, e = whole.Multiple(common, total(l), api.ErrOver); e != api.OK {
 			return 0, e
 		}
 	}
@@ -141,9 +142,9 @@ func Apart(a, b []int) (api.Chance, api.Errno) {
 	if len(a) != len(b) {
 		return api.Chance{}, api.ErrArg
 	}
-	a, b = lowest(a), lowest(b)
+	a, b = whole.Lowest(a), whole.Lowest(b)
 	sumA, sumB := total(a), total(b)
-	den, e := product(sumA, sumB)
+	den, e := whole.Product(sumA, sumB, api.ErrOver)
 	if e != api.OK {
 		return api.Chance{}, e
 	}

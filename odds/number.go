@@ -3,8 +3,6 @@ package odds
 import (
 	"cmp"
 	"math/bits"
-
-	"astragal/api"
 )
 
 // wide is a number of two words, the higher one first: the product of two numbers up to MaxNumber does not fit in one.
@@ -37,28 +35,4 @@ func (a wide) modulo(n int) int {
 func (a wide) divided(n int) int {
 	quotient, _ := bits.Div64(a[0], a[1], uint64(n))
 	return int(quotient)
-}
-
-// divisor returns the greatest number that divides all numbers; 0 if all of them are 0.
-func divisor(numbers ...int) int {
-	by := 0
-	for _, n := range numbers {
-		for n != 0 {
-			by, n = n, by%n
-		}
-	}
-	return by
-}
-
-// product returns a * b, which are above 0, or ErrOver.
-func product(a, b int) (int, api.Errno) {
-	if a > api.MaxNumber/b {
-		return 0, api.ErrOver
-	}
-	return a * b, api.OK
-}
-
-// multiple returns the least number of which a and b, which are above 0, are divisors, or ErrOver.
-func multiple(a, b int) (int, api.Errno) {
-	return product(a, b/divisor(a, b))
 }

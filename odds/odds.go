@@ -5,6 +5,7 @@ import (
 	"slices"
 
 	"astragal/api"
+	"astragal/whole"
 )
 
 // Check returns the error of a list of weights.
@@ -23,7 +24,7 @@ func Lowest(w []int) ([]int, api.Errno) {
 	if e := check(w); e != api.OK {
 		return nil, e
 	}
-	return lowest(w), api.OK
+	return whole.Lowest(w), api.OK
 }
 
 // Same reports whether two lists of weights give all outcomes the same chances.
@@ -31,7 +32,7 @@ func Same(a, b []int) (bool, api.Errno) {
 	if e := check(a, b); e != api.OK {
 		return false, e
 	}
-	return slices.Equal(lowest(a), lowest(b)), api.OK
+	return slices.Equal(whole.Lowest(a), whole.Lowest(b)), api.OK
 }
 
 // Of returns the chance that the outcome is one of a list.
@@ -59,10 +60,10 @@ func Map(w []int, to []int, n int) ([]int, api.Errno) {
 	if e := check(w); e != api.OK {
 		return nil, e
 	}
-	if outside(1, api.MaxOutcomes)(n) {
+	if whole.Outside(1, api.MaxOutcomes)(n) {
 		return nil, api.ErrRange
 	}
-	if len(to) != len(w) || slices.ContainsFunc(to, outside(0, n-1)) {
+	if len(to) != len(w) || slices.ContainsFunc(to, whole.Outside(0, n-1)) {
 		return nil, api.ErrArg
 	}
 	mapped := make([]int, n)

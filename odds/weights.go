@@ -5,6 +5,7 @@ import (
 	"slices"
 
 	"astragal/api"
+	"astragal/whole"
 )
 
 // check returns the error of the first list of weights that has one.
@@ -14,7 +15,7 @@ func check(lists ...[]int) api.Errno {
 			return api.ErrLong
 		}
 		// Each weight first: the sum of what passes can not overflow.
-		if slices.ContainsFunc(w, outside(0, api.MaxNumber)) || outside(1, api.MaxNumber)(total(w)) {
+		if slices.ContainsFunc(w, whole.Outside(0, api.MaxNumber)) || whole.Outside(1, api.MaxNumber)(total(w)) {
 			return api.ErrArg
 		}
 	}
@@ -38,11 +39,6 @@ func checkSome(w []int, outcomes []int) api.Errno {
 	return api.OK
 }
 
-// outside returns the condition that a number is not from low to high.
-func outside(low, high int) func(int) bool {
-	return func(n int) bool { return n < low || n > high }
-}
-
 // sums yields each outcome with the sum of the weights up to it.
 func sums(w []int) iter.Seq2[int, int] {
 	return func(yield func(int, int) bool) {
@@ -63,16 +59,6 @@ func total(w []int) int {
 		all = sum
 	}
 	return all
-}
-
-// lowest returns weights, not all of them 0, in lowest terms.
-func lowest(w []int) []int {
-	by := divisor(w...)
-	l := make([]int, len(w))
-	for k, x := range w {
-		l[k] = x / by
-	}
-	return l
 }
 
 // only returns the weights of some outcomes, and 0 for all others.
