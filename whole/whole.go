@@ -4,8 +4,8 @@ package whole
 import "astragal/api"
 
 // Outside returns the condition that a number is not from low to high.
-func Outside(low, high int) func(int) bool {
-	return func(n int) bool { return n < low || n > high }
+func Outside[T ~int](low, high T) func(T) bool {
+	return func(n T) bool { return n < low || n > high }
 }
 
 // Divisor returns the greatest number that divides all numbers, none of which is below 0; 0 if all of them are 0.
